@@ -50,7 +50,7 @@ func look(w *world.World, number int, label string) string {
 
 func no(e api.Errno) string { return parted(wordNo, strconv.Itoa(int(e))) }
 
-// is: the key's root has bytes enough, as a checked entry's key has its own.
+// is there: what was checked has a value, so its key's root has all its bytes.
 func is(x entry.Entry) string {
 	return parted(wordIs, strconv.FormatUint(x.Version, 10), sha.Hex(x.Key.Root)[:rootDigits])
 }
